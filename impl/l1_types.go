@@ -79,12 +79,23 @@ func (p *typePool) parts(sign string, left *typeNode, right *typeNode) *typeNode
 	return p.share(key, typeNode{left: left, right: right, size: 1 + left.size + right.size})
 }
 
-// A typeReader reads a type from the front of a text.
-type typeReader struct {
-	pool  *typePool
+// A textReader reads from the front of a text.
+type textReader struct {
 	text  string // what is not read yet
-	shift int    // is added to the number of each variable
-	atoms int
+	atoms int    // how many are read
+}
+
+func (r *textReader) skip(front string) bool {
+	rest, ok := strings.CutPrefix(r.text, front)
+	r.text = rest
+	return ok
+}
+
+// A typeReader reads a type.
+type typeReader struct {
+	textReader
+	pool  *typePool
+	shift int // is added to the number of each variable
 }
 
 // read returns the type that a text is, or nil. The shift keeps its variables apart from those of other texts.
@@ -92,18 +103,12 @@ func (p *typePool) read(text string, shift int) *typeNode {
 	if len(text) > TextMax {
 		return nil
 	}
-	r := &typeReader{pool: p, text: text, shift: shift}
+	r := &typeReader{textReader: textReader{text: text}, pool: p, shift: shift}
 	n := r.next()
 	if r.text != "" {
 		return nil
 	}
 	return n
-}
-
-func (r *typeReader) skip(front string) bool {
-	rest, ok := strings.CutPrefix(r.text, front)
-	r.text = rest
-	return ok
 }
 
 func (r *typeReader) next() *typeNode {
