@@ -271,17 +271,22 @@ func (u *typeUnion) settle(n *typeNode) *typeNode {
 	return done
 }
 
+// canonText returns the canonical text of what a type becomes, and true. It fails if settle does.
+func (u *typeUnion) canonText(n *typeNode) (string, bool) {
+	done := u.settle(n)
+	if done == nil {
+		return "", false
+	}
+	return typeText(u.pool.canon(done)), true
+}
+
 // joinTypes returns the canonical text of what two types become when they are joined, and true.
 func joinTypes(pool *typePool, a *typeNode, b *typeNode) (string, bool) {
 	union := newTypeUnion(pool)
 	if !union.join(a, b) {
 		return "", false
 	}
-	n := union.settle(a)
-	if n == nil {
-		return "", false
-	}
-	return typeText(pool.canon(n)), true
+	return union.canonText(a)
 }
 
 // standsOnly reports whether a variable stands nowhere negative, or nowhere positive, in a type.
