@@ -105,39 +105,60 @@ func (p *plainTyping) wholeWithin(x oneType, left *int) oneType {
 	return node(x.atom, first, p.wholeWithin(x.parts[1], left))
 }
 
-func (p *plainTyping) kind(t oneTerm, around map[string]oneType) (oneType, bool) {
+// A typedPart is a part of a term with its type.
+type typedPart struct {
+	head string
+	name string
+	kind oneType
+	kids []typedPart
+}
+
+// typed returns a term and its parts with their types, as far as they are known until now.
+func (p *plainTyping) typed(t oneTerm, around map[string]oneType) (typedPart, bool) {
+	part := typedPart{head: t.head, name: t.name}
 	if t.isName() {
-		x, ok := around[t.head]
-		return x, ok
+		kind, ok := around[t.head]
+		part.kind = kind
+		return part, ok
 	}
+	within, bound := around, p.fresh()
 	if t.head == "lam" {
-		left, within := p.fresh(), maps.Clone(around)
-		within[t.name] = left
-		right, ok := p.kind(t.kids[0], within)
-		return node(">", left, right), ok
+		within = maps.Clone(around)
+		within[t.name] = bound
 	}
 	kinds := []oneType{}
 	for _, kid := range t.kids {
-		x, ok := p.kind(kid, around)
+		x, ok := p.typed(kid, within)
 		if !ok {
-			return x, false
+			return part, false
 		}
-		kinds = append(kinds, x)
+		part.kids = append(part.kids, x)
+		kinds = append(kinds, x.kind)
 	}
 	left, right := p.fresh(), p.fresh()
+	ok := true
 	switch t.head {
+	case "lam":
+		part.kind = node(">", bound, kinds[0])
 	case "app":
-		return right, p.equal(kinds[0], node(">", kinds[1], right))
+		part.kind, ok = right, p.equal(kinds[0], node(">", kinds[1], right))
 	case "pair":
-		return node("*", kinds[0], kinds[1]), true
+		part.kind = node("*", kinds[0], kinds[1])
 	case "fst":
-		return left, p.equal(kinds[0], node("*", left, right))
+		part.kind, ok = left, p.equal(kinds[0], node("*", left, right))
 	case "snd":
-		return right, p.equal(kinds[0], node("*", left, right))
+		part.kind, ok = right, p.equal(kinds[0], node("*", left, right))
 	case "if":
-		return kinds[1], p.equal(kinds[0], leaf("o")) && p.equal(kinds[1], kinds[2])
+		part.kind, ok = kinds[1], p.equal(kinds[0], leaf("o")) && p.equal(kinds[1], kinds[2])
+	default:
+		part.kind = leaf("o")
 	}
-	return leaf("o"), true
+	return part, ok
+}
+
+func (p *plainTyping) kind(t oneTerm, around map[string]oneType) (oneType, bool) {
+	part, ok := p.typed(t, around)
+	return part.kind, ok
 }
 
 // kindText is the principal type that is wanted, "" for none. Each let is unfolded first, as its name may have another type at each place.

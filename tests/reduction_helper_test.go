@@ -145,7 +145,7 @@ type kindName struct {
 	kind oneType
 }
 
-// typed returns a closed term of a type without variables, with redexes as long as there is depth left, in which some names may be used.
+// typed returns a closed term of a type, with redexes as long as there is depth left, in which some names may be used. For each variable of the type there must be a name that no other one hides.
 func (d *dice) typed(kind oneType, around []kindName, depth int) oneTerm {
 	name := []string{"x", "y", "z", "x0", "x1"}[d.below(5)]
 	// part returns a term of a type, in which the name has a type, too.
@@ -156,7 +156,13 @@ func (d *dice) typed(kind oneType, around []kindName, depth int) oneTerm {
 		}
 		return d.typed(kind, within, depth-1)
 	}
-	other := d.typeOf([]int{1, 1, 3, 5}[d.below(4)], "o")
+	letters := "o"
+	for _, n := range around {
+		if n.kind.isVariable() {
+			letters += n.kind.atom
+		}
+	}
+	other := d.typeOf([]int{1, 1, 3, 5}[d.below(4)], letters)
 	choice := d.below(12)
 	switch {
 	case depth <= 0 || choice >= 10:
@@ -184,7 +190,7 @@ func (d *dice) typedFront(kind oneType, around []kindName, name string, part fun
 		}
 	}
 	switch {
-	case len(names) > 0 && d.below(4) > 0:
+	case len(names) > 0 && (kind.isVariable() || d.below(4) > 0):
 		return word(names[d.below(len(names))])
 	case kind.atom == ">":
 		return lam(name, part(kind.parts[1], kind.parts[0]))
