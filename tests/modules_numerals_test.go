@@ -129,15 +129,19 @@ func TestLibrary(t *testing.T) {
 	}
 }
 
-func TestNoNamesOfTheLibrary(t *testing.T) {
+// notNamesOfLibrary returns texts that are no names of terms.
+func notNamesOfLibrary() []string {
 	names := []string{
 		"", " ", "\n", "\x00", "\xff", "three", "four", "id", "identity", "or", "pow", "plus", "times", "power", "odd", "pred", "pair", "fst", "lam", "app", "if", "let", "true", "false", "0", "1", "2", "x", "x0", "n", "o", "a", "zero one", "zeroone", "zero,one", "(zero)", "sucс", "ｚero", "(lam x0 x0)", "name", "lib", "lib succ",
 	}
 	for _, c := range libraryOfDocument() {
 		names = append(names, " "+c.name, c.name+" ", c.name+"\n", c.name+"\x00", c.name+"s", "x"+c.name, c.name[1:], c.name[:len(c.name)-1], strings.ToUpper(c.name), strings.ToUpper(c.name[:1])+c.name[1:], c.name+c.name, c.text, "("+c.name+")", c.name+"0", strings.Join(strings.Split(c.name, ""), " "))
 	}
-	names = append(names, strings.Repeat("succ", 100000))
-	for _, name := range names {
+	return append(names, strings.Repeat("succ", 100000))
+}
+
+func TestNoNamesOfTheLibrary(t *testing.T) {
+	for _, name := range notNamesOfLibrary() {
 		got, ok := impl.Library(name)
 		checkText(t, "Library of "+name, got, ok, "")
 	}
